@@ -358,18 +358,51 @@ func TestJoinRefusesShapes(t *testing.T) {
 	wantJoin(t, p, []stripe.Part{{Index: 0, Data: "x"}, {Index: 1}}, 0, "", api.ErrShape)
 }
 
-func TestNumbersAreToldAheadOfShapes(t *testing.T) {
+// R1: a list is looked at from its front on, and of one part its number ahead
+// of its length.
+func TestFirstWrongPartIsTold(t *testing.T) {
 	p := plan(t, 2, 1)
-	for _, parts := range [][]stripe.Part{
-		{{Index: 3, Data: "x"}},
-		{{Index: 0, Data: "x"}, {Index: 3, Data: "xy"}},
-		{{Index: 3, Data: "xy"}, {Index: 0, Data: "x"}},
-		{{Index: 0, Data: "xy"}, {Index: 1, Data: "xyz"}, {Index: -1, Data: "xy"}},
+	for _, x := range []struct {
+		parts []stripe.Part
+		want  api.Code
+	}{
+		{[]stripe.Part{{Index: 3, Data: "x"}}, api.ErrRange},
+		{[]stripe.Part{{Index: -1, Data: ""}}, api.ErrRange},
+		{[]stripe.Part{{Index: 0, Data: "x"}, {Index: 3, Data: "xy"}}, api.ErrShape},
+		{[]stripe.Part{{Index: 0, Data: "x"}, {Index: 3, Data: "x"}}, api.ErrShape},
+		{[]stripe.Part{{Index: 3, Data: "xy"}, {Index: 0, Data: "x"}}, api.ErrRange},
+		{[]stripe.Part{{Index: 3, Data: "x"}, {Index: 0, Data: "x"}}, api.ErrRange},
+		{[]stripe.Part{{Index: 0, Data: "xy"}, {Index: 1, Data: "xyz"}, {Index: -1, Data: "xy"}}, api.ErrShape},
+		{[]stripe.Part{{Index: 0, Data: "xy"}, {Index: -1, Data: "xy"}, {Index: 1, Data: "xyz"}}, api.ErrRange},
+		// Behind as many parts as are needed, and of a number that was seen already, too.
+		{[]stripe.Part{{Index: 0, Data: "xy"}, {Index: 1, Data: "xy"}, {Index: 1, Data: ""}, {Index: 3, Data: ""}}, api.ErrShape},
+		{[]stripe.Part{{Index: 0, Data: "xy"}, {Index: 1, Data: "xy"}, {Index: 3, Data: ""}, {Index: 1, Data: ""}}, api.ErrRange},
 	} {
-		wantJoin(t, p, parts, 4, "", api.ErrRange)
-		wantShard(t, p, parts, 4, 0, "", api.ErrRange)
-		wantShard(t, p, parts, 4, 9, "", api.ErrRange)
+		wantJoin(t, p, x.parts, 4, "", x.want)
+		for _, index := range []int{0, 2, 9, -1} {
+			wantShard(t, p, x.parts, 4, index, "", x.want)
+		}
 	}
+}
+
+// Wherever two wrong parts stand among good ones, the one ahead is told.
+func TestFirstOfTwoWrongPartsIsTold(t *testing.T) {
+	p := plan(t, 2, 2)
+	good := partsOf(split(t, p, "abcd"), 2, 0, 2, 3, 1)
+	short := stripe.Part{Index: 1, Data: "x"}
+	far := stripe.Part{Index: 4, Data: "xy"}
+	choices(len(good), 2, func(places []int) {
+		for _, x := range []struct {
+			ahead, behind stripe.Part
+			want          api.Code
+		}{{short, far, api.ErrShape}, {far, short, api.ErrRange}} {
+			parts := slices.Clone(good)
+			parts[places[0]], parts[places[1]] = x.ahead, x.behind
+			wantJoin(t, p, parts, 4, "", x.want)
+			wantShard(t, p, parts, 4, 3, "", x.want)
+			wantShard(t, p, parts, 4, 4, "", x.want)
+		}
+	})
 }
 
 func TestJoinRefusesTooFew(t *testing.T) {
